@@ -66,9 +66,9 @@ func ShareBySums(total int, weights []int) []int {
 	upTo, given := 0, 0
 	for i, w := range weights {
 		upTo += w
-		rounded := (2*total*upTo + sum) / (2 * sum)
-		shares[i] = rounded - given
-		given = rounded
+		sumUpTo := halvesUp(total*upTo, sum)
+		shares[i] = sumUpTo - given
+		given = sumUpTo
 	}
 	return shares
 }
@@ -214,6 +214,11 @@ func roundNext(grid [][]int, unit int, out [][]int) bool {
 // nearest returns the closest to n of the quotient a / b, for a of at least 0, rounded down or up.
 func nearest(n int, a int, b int) int {
 	return min(max(n, a/b), (a+b-1)/b)
+}
+
+// halvesUp returns the quotient a / b, for a of at least 0, rounded, halves up.
+func halvesUp(a int, b int) int {
+	return (2*a + b) / (2 * b)
 }
 
 // inRange reports whether n is one of the numbers from low up to high.
