@@ -40,14 +40,14 @@ func reversed(list []int) []int {
 	return out
 }
 
-// sameRows reports whether rows have the same numbers.
-func sameRows(a [][]int, b [][]int) bool {
-	return slices.EqualFunc(a, b, func(x []int, y []int) bool { return slices.Equal(x, y) })
+// sameRows reports whether rows have the same elements.
+func sameRows[T comparable](a [][]T, b [][]T) bool {
+	return slices.EqualFunc(a, b, func(x []T, y []T) bool { return slices.Equal(x, y) })
 }
 
 // cloneRows returns rows in new memory.
-func cloneRows(rows [][]int) [][]int {
-	out := make([][]int, len(rows))
+func cloneRows[T any](rows [][]T) [][]T {
+	out := make([][]T, len(rows))
 	for i, row := range rows {
 		out[i] = slices.Clone(row)
 	}
